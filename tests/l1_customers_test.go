@@ -341,19 +341,9 @@ func TestCustomersResultsAreNew(t *testing.T) {
 }
 
 func TestCustomersSameAgain(t *testing.T) {
-	answers := func(all []impl.Customer) []int {
+	sameAgain(t, func(all []impl.Customer) []int {
 		many, need, _ := impl.ComeBy(all, 6)
 		later, _ := impl.LaterBy(all, 6)
 		return append(impl.GapsOf(all), impl.NeedOf(all), many, need, impl.NeedOf(later), impl.LastLeave(all))
-	}
-	lists := append(goodLists(), badLists()...)
-	var first [][]int
-	for _, all := range lists {
-		first = append(first, answers(all))
-	}
-	for i, all := range slices.Backward(lists) {
-		if !slices.Equal(answers(all), first[i]) {
-			t.Fatalf("the answers for %v are %v, and were %v", all, answers(all), first[i])
-		}
-	}
+	})
 }

@@ -124,6 +124,43 @@ func scribbled[T any](result []T, with T) {
 	}
 }
 
+// pastPlaces has places that no list of so many has.
+func pastPlaces(many int) []int {
+	return []int{math.MinInt, -many - 1, -1, many, many + 1, 8, 9, math.MaxInt}
+}
+
+// otherPlaces calls for customers with places that they do not have, and for others with any place.
+func otherPlaces(call func(all []impl.Customer, at int)) {
+	for _, all := range goodLists() {
+		for _, at := range pastPlaces(len(all)) {
+			call(all, at)
+		}
+	}
+	for _, all := range badLists() {
+		for at := range len(all) {
+			call(all, at)
+		}
+		for _, at := range pastPlaces(len(all)) {
+			call(all, at)
+		}
+	}
+}
+
+// sameAgain asks for all lists, and for all again from the last one on, and reports it if a call leaves anything for a next one.
+func sameAgain(t *testing.T, answers func(all []impl.Customer) []int) {
+	t.Helper()
+	lists := append(goodLists(), badLists()...)
+	var first [][]int
+	for _, all := range lists {
+		first = append(first, answers(all))
+	}
+	for i, all := range slices.Backward(lists) {
+		if again := answers(all); !slices.Equal(again, first[i]) {
+			t.Fatalf("the answers for %v are %v, and were %v", all, again, first[i])
+		}
+	}
+}
+
 func TestListsAreWhatTheyShouldBe(t *testing.T) {
 	for _, all := range badLists() {
 		if goodByRule(all) {
