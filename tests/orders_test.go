@@ -237,6 +237,21 @@ func orderUntouched(t *testing.T, all []impl.Customer, order []int, call func(pa
 	}
 }
 
+// allUntouched calls with customers and orders, and with others and with orders that are none, and reports it if any of them is written to.
+func allUntouched(t *testing.T, call func(part []impl.Customer, units []int)) {
+	t.Helper()
+	for _, all := range someLists() {
+		for _, order := range append(goodOrders(all), badOrders(all)[:9]...) {
+			orderUntouched(t, all, order, call)
+		}
+	}
+	for _, all := range badLists() {
+		for _, order := range ordersForOthers(all) {
+			orderUntouched(t, all, order, call)
+		}
+	}
+}
+
 func TestOrdersAreWhatTheyShouldBe(t *testing.T) {
 	for _, all := range someLists() {
 		for _, order := range goodOrders(all) {
