@@ -58,14 +58,19 @@ func shortLists() [][]impl.Customer {
 	return lists
 }
 
-// longLists has customers of each number up to MaxCustomers, told by a fixed rule, with few and with many who come at the same time.
-func longLists() [][]impl.Customer {
-	var lists [][]impl.Customer
-	state := uint32(1)
-	next := func(below int) int {
+// numbersFrom tells one number after the other below a bound, by a fixed rule.
+func numbersFrom(seed uint32) func(below int) int {
+	state := seed
+	return func(below int) int {
 		state = state*1664525 + 1013904223
 		return int(state>>16) % below
 	}
+}
+
+// longLists has customers of each number up to MaxCustomers, told by a fixed rule, with few and with many who come at the same time.
+func longLists() [][]impl.Customer {
+	var lists [][]impl.Customer
+	next := numbersFrom(1)
 	for many := 0; many <= 8; many++ {
 		for _, latest := range []int{0, 2, 12, 30, 60} {
 			for range 12 {
@@ -105,15 +110,21 @@ func badLists() [][]impl.Customer {
 	return lists
 }
 
-// untouched calls with a part of a longer list, and reports it if any of the longer list is written to.
-func untouched(t *testing.T, all []impl.Customer, call func(part []impl.Customer)) {
+// rowUntouched calls with a part of a longer row, and reports it if any of the longer row is written to.
+func rowUntouched[T comparable](t *testing.T, row, more []T, call func(part []T)) {
 	t.Helper()
-	longer := append(slices.Clone(all), list(11, 1, 12, 2, 13, 3)...)
+	longer := append(slices.Clone(row), more...)
 	before := slices.Clone(longer)
-	call(longer[:len(all)])
+	call(longer[:len(row)])
 	if !slices.Equal(longer, before) {
 		t.Fatalf("an argument was written to: %v became %v", before, longer)
 	}
+}
+
+// untouched calls with a part of a longer list, and reports it if any of the longer list is written to.
+func untouched(t *testing.T, all []impl.Customer, call func(part []impl.Customer)) {
+	t.Helper()
+	rowUntouched(t, all, list(11, 1, 12, 2, 13, 3), call)
 }
 
 // scribbled writes to all the memory of a result, with its spare capacity.
@@ -146,19 +157,23 @@ func otherPlaces(call func(all []impl.Customer, at int)) {
 	}
 }
 
-// sameAgain asks for all lists, and for all again from the last one on, and reports it if a call leaves anything for a next one.
-func sameAgain(t *testing.T, answers func(all []impl.Customer) []int) {
+// sameForAll asks for all of a list, and for all again from the last one on, and reports it if a call leaves anything for a next one.
+func sameForAll[T any](t *testing.T, list []T, answers func(one T) []int) {
 	t.Helper()
-	lists := append(goodLists(), badLists()...)
 	var first [][]int
-	for _, all := range lists {
-		first = append(first, answers(all))
+	for _, one := range list {
+		first = append(first, answers(one))
 	}
-	for i, all := range slices.Backward(lists) {
-		if again := answers(all); !slices.Equal(again, first[i]) {
-			t.Fatalf("the answers for %v are %v, and were %v", all, again, first[i])
+	for i, one := range slices.Backward(list) {
+		if again := answers(one); !slices.Equal(again, first[i]) {
+			t.Fatalf("the answers for %v are %v, and were %v", one, again, first[i])
 		}
 	}
+}
+
+func sameAgain(t *testing.T, answers func(all []impl.Customer) []int) {
+	t.Helper()
+	sameForAll(t, append(goodLists(), badLists()...), answers)
 }
 
 func TestListsAreWhatTheyShouldBe(t *testing.T) {

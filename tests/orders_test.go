@@ -87,11 +87,7 @@ func busyByWords(all []impl.Customer, order []int) bool {
 
 // chanceOrder has any of those who may be served in each unit, told by a fixed rule, and nobody as often as one in idle, or never for 0.
 func chanceOrder(all []impl.Customer, seed uint32, idle int) []int {
-	state := seed
-	next := func(below int) int {
-		state = state*1664525 + 1013904223
-		return int(state>>16) % below
-	}
+	next := numbersFrom(seed)
 	var order, left []int
 	for at, c := range all {
 		for range c.Need {
@@ -229,12 +225,9 @@ func maxCome(all []impl.Customer) int {
 // orderUntouched calls with a part of a longer list and a part of a longer order, and reports it if any of either is written to.
 func orderUntouched(t *testing.T, all []impl.Customer, order []int, call func(part []impl.Customer, units []int)) {
 	t.Helper()
-	longer := append(slices.Clone(order), 0, -1, 1)
-	before := slices.Clone(longer)
-	untouched(t, all, func(part []impl.Customer) { call(part, longer[:len(order)]) })
-	if !slices.Equal(longer, before) {
-		t.Fatalf("an order was written to: %v became %v", before, longer)
-	}
+	rowUntouched(t, order, []int{0, -1, 1}, func(units []int) {
+		untouched(t, all, func(part []impl.Customer) { call(part, units) })
+	})
 }
 
 // allUntouched calls with customers and orders, and with others and with orders that are none, and reports it if any of them is written to.
